@@ -7,7 +7,7 @@ import (
 	"roamwave/api"
 )
 
-// TestNoCountLeft: behind 2^24 - 1. It begins near the end, as sending all of them would take too long.
+// TestNoCountLeft: behind 2^24 - 1. It begins near the end, as sending all of them would take about a minute.
 func TestNoCountLeft(t *testing.T) {
 	s := &Sender{key: 0x12345678, begin: 1<<24 - 2}
 	if p, err := s.Send("ahead"); p.Short != 4094 || err != api.OK {

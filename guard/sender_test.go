@@ -20,8 +20,8 @@ func TestWrongKeys(t *testing.T) {
 	}
 }
 
-// TestPacketsByHand: worked out from the document's words alone, without the layers beneath.
-func TestPacketsByHand(t *testing.T) {
+// TestKnownPackets: computed apart from the program, by a script that follows the document's words (P4, P5 and P27), so without the layers beneath.
+func TestKnownPackets(t *testing.T) {
 	for _, x := range []struct {
 		key, count int
 		data       string
