@@ -149,7 +149,7 @@ func TestDeafThenLost(t *testing.T) {
 	}
 }
 
-// TestRough: until which tick a block is not heard hangs on how many of its points are turned.
+// TestRough: until which tick a block is not heard hangs on how many of its points are turned. The numbers are what the program answered, not worked out by hand: they hold it to that.
 func TestRough(t *testing.T) {
 	for _, x := range []struct {
 		who int
